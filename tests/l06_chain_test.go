@@ -56,13 +56,19 @@ func keepChain(c impl.Chain) impl.Chain {
 	return impl.Chain{Finger: c.Finger, L: keepAlarms(c.L)}
 }
 
-// alikeSets: n sets of labels, unlike, but of one Finger, and a set of another one.
-func alikeSets(n int) ([][]impl.Label, []impl.Label) {
+// setsByFinger: unlike sets of labels, some 40 of each Finger.
+func setsByFinger() map[int][][]impl.Label {
 	met := map[int][][]impl.Label{}
 	for _, val := range shortTexts("0123456789abcdefghijklmnopqrstuvwxyz", 2) {
 		l := set("host", val)
 		met[fingerAsTold(l)] = append(met[fingerAsTold(l)], l)
 	}
+	return met
+}
+
+// alikeSets: n sets of labels, unlike, but of one Finger, and a set of another one.
+func alikeSets(n int) ([][]impl.Label, []impl.Label) {
+	met := setsByFinger()
 	// Not from 0 on, so that a Finger that is left out is seen.
 	for finger := 1; finger < 32; finger++ {
 		if len(met[finger]) >= n {
